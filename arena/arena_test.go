@@ -134,6 +134,20 @@ func wantUndo(t *testing.T, a *arena.Arena, tenant, wanted int) {
 	}
 }
 
+func wantBack(t *testing.T, a *arena.Arena, tenant, n, wanted int) {
+	t.Helper()
+	if got := a.Back(tenant, n); got != wanted {
+		t.Errorf("Back(%d, %d): %d; want %d", tenant, n, got, wanted)
+	}
+}
+
+func wantFresh(t *testing.T, a *arena.Arena, tenant, wanted int) {
+	t.Helper()
+	if n := a.Fresh(tenant); n != wanted {
+		t.Errorf("Fresh(%d): %d; want %d", tenant, n, wanted)
+	}
+}
+
 func wantClean(t *testing.T, a *arena.Arena, tenant int, roots []int, wanted int) {
 	t.Helper()
 	if n := a.Clean(tenant, roots); n != wanted {
@@ -869,6 +883,56 @@ func TestUndoneNumbersOfOthers(t *testing.T) {
 	wantKids(t, a, 1, 2, quarters(1))
 }
 
+// Back undoes what came last, and leaves the mark where it is.
+func TestBack(t *testing.T) {
+	a := build(t, 20)
+	l := tower(t, a, 0, 2)
+	mark(t, a, 0)
+	tower(t, a, 0, 4)
+	wantNote(t, a, 0, l[1], 7, 1, l[0])
+	tower(t, a, 1, 5)
+	wantFresh(t, a, 0, 3)
+	wantBack(t, a, 0, 1, 2)
+	wantFresh(t, a, 0, 1)
+	wantCount(t, a, 0, 3)
+	wantLevel(t, a, 0, 4, 3)
+	notOwn(t, a, 0, 5)
+	noRecall(t, a, 0, l[1], 7, 1)
+	wantLive(t, a, 6)
+	wantCount(t, a, 1, 5)
+	tower(t, a, 0, 5)
+	wantFresh(t, a, 0, 3)
+	wantUndo(t, a, 0, 3)
+	wantFresh(t, a, 0, 0)
+	wantCount(t, a, 0, 2)
+	wantSweep(t, a, 1)
+	wantLevel(t, a, 1, 7, 5)
+}
+
+func TestBackByAnyNumber(t *testing.T) {
+	a := build(t, 20)
+	for _, n := range []int{3, 4, 1 << 32, math.MaxInt} {
+		tower(t, a, 0, 3)
+		wantBack(t, a, 0, n, 0)
+		wantFresh(t, a, 0, 3)
+	}
+	for _, n := range []int{0, -1, math.MinInt} {
+		tower(t, a, 0, 3)
+		wantBack(t, a, 0, n, 3)
+		wantFresh(t, a, 0, 0)
+		wantCount(t, a, 0, 0)
+	}
+	for _, tenant := range noTenants() {
+		wantFresh(t, a, tenant, 0)
+		wantBack(t, a, tenant, 0, 0)
+	}
+	tower(t, a, 0, 3)
+	wantClean(t, a, 0, []int{2}, 2)
+	wantFresh(t, a, 0, 0)
+	wantBack(t, a, 0, 0, 0)
+	wantCount(t, a, 0, 1)
+}
+
 func TestCleanWithoutRoots(t *testing.T) {
 	for _, roots := range [][]int{nil, {}, {0}, {1, 0, 1}, {-1, 9, 1 << 32, math.MinInt, math.MaxInt}} {
 		a := build(t, 9)
@@ -1080,6 +1144,8 @@ func TestNilArena(t *testing.T) {
 		}
 		wantCount(t, a, tenant, 0)
 		wantUndo(t, a, tenant, 0)
+		wantFresh(t, a, tenant, 0)
+		wantBack(t, a, tenant, 0, 0)
 		wantClean(t, a, tenant, []int{0, 2}, 0)
 		wantClean(t, a, tenant, nil, 0)
 	}

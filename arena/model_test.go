@@ -178,6 +178,24 @@ func (m *model) undo(t int) int {
 	return m.drop(t, func(_ int, x *record) bool { return x.owners[t] > m.since[t] })
 }
 
+// back drops what became the tenant's own last.
+func (m *model) back(t, n int) int {
+	var times []int
+	for _, x := range m.things {
+		if x.owners[t] > m.since[t] {
+			times = append(times, x.owners[t])
+		}
+	}
+	if len(times) <= n {
+		return 0
+	}
+	since := m.since[t]
+	slices.Sort(times)
+	gone := m.drop(t, func(_ int, x *record) bool { return x.owners[t] >= times[n] })
+	m.since[t] = since
+	return gone
+}
+
 func (m *model) clean(t int, roots []int) int {
 	stays := map[int]bool{}
 	for list := slices.Clone(roots); len(list) > 0; list = list[1:] {
@@ -277,7 +295,7 @@ func (p *pair) grow() {
 
 func (p *pair) shrink() {
 	t := p.tenant()
-	switch p.r.Intn(6) {
+	switch p.r.Intn(7) {
 	case 0:
 		n := p.r.Intn(p.m.room+3) - 1
 		p.check("Limit", p.a.Limit(t, n) == p.m.limit(t, n))
@@ -295,6 +313,9 @@ func (p *pair) shrink() {
 		p.check("Clean", p.a.Clean(t, roots) == p.m.clean(t, roots))
 	case 5:
 		p.check("Sweep", p.a.Sweep() == p.m.sweep())
+	case 6:
+		n := p.r.Intn(p.a.Fresh(t) + 2)
+		p.check("Back", p.a.Back(t, n) == p.m.back(t, n))
 	}
 }
 

@@ -107,14 +107,14 @@ func (a *Arena) give(t, id int) {
 	a.tenants[t].fresh = append(a.tenants[t].fresh, id)
 }
 
-// take leaves what can be undone as it is: who takes forgets all of it.
+// take leaves the list of what can be undone as it is: who takes forgets what was taken there.
 func (a *Arena) take(t, id int) {
 	a.things[id-first].mask &^= bit(t)
 	a.tenants[t].count--
 }
 
 // keep marks the tenant's own square of a number, and all squares that it is made of: they are the tenant's own, too,
-// as Join wants them to be, and Undo and Clean take none away from below another.
+// as Join wants them to be, and Undo, Back and Clean take none away from below another.
 func (a *Arena) keep(t, id int, kept []bool) {
 	x, ok := a.own(t, id)
 	if !ok || x.kind != aSquare || kept[id-first] {
